@@ -23,6 +23,8 @@ METHODS = set(
     " setdefault split splitlines startswith strip update upper values zfill bit_length".split()
 )
 
+TWO_UNDERSCORES = ("__init__", "__eq__", "__repr__", "__str__", "__len__", "__all__", "__version__")
+
 NODES = set(
     "Module Expr ImportFrom alias FunctionDef arguments arg ClassDef Lambda Return Assign AugAssign For While If Raise"
     " Try ExceptHandler Pass Break Continue Call Name Load Store Attribute Subscript Slice Constant List Tuple Dict Set"
@@ -30,6 +32,9 @@ NODES = set(
     " Add Sub Mult FloorDiv Mod Pow LShift RShift BitOr BitXor BitAnd Invert Not UAdd USub And Or"
     " Eq NotEq Lt LtE Gt GtE Is IsNot In NotIn".split()
 )
+
+WALKED = ("zip", "enumerate", "reversed", "range", "items", "keys", "values")
+WALKERS = ("list", "tuple", "dict", "sorted", "sum", "any", "all", "enumerate", "zip", "min", "max")
 
 WORDS = re.compile(
     r"\b(type|typing|typing_extensions|enum|Enum|IntEnum|StrEnum|Flag|IntFlag|Generic|Protocol|ABC|ABCMeta|namedtuple"
@@ -99,6 +104,38 @@ class Form(unittest.TestCase):
             self.assertIsNone(node.vararg or node.kwarg, f"L4 {where}")
             self.assertEqual(node.kwonlyargs + node.posonlyargs, [], f"L4 {where}")
 
+    def test_classes(self):
+        for node, where in nodes(ast.ClassDef):
+            self.assertLessEqual(len(node.bases), 1, f"L5 {where}")
+            for part in node.body:
+                self.assertIsInstance(part, (ast.FunctionDef, ast.Pass), f"L5 {where}")
+
+    def test_errors(self):
+        for node, where in nodes(ast.ExceptHandler):
+            self.assertIsInstance(node.type, (ast.Name, ast.Tuple), f"L19 {where}")
+            for part in ast.walk(node.type):
+                self.assertNotIn(getattr(part, "id", ""), ("Exception", "TypeError"), f"L19 {where}")
+        for node, where in nodes(ast.Raise):
+            self.assertIsInstance(node.exc, ast.Call, f"L19 {where}")
+
+    def test_is(self):
+        for node, where in nodes(ast.Compare):
+            if any(isinstance(sign, (ast.Is, ast.IsNot)) for sign in node.ops):
+                for side in node.comparators:
+                    self.assertIsInstance(side, ast.Constant, f"L20 {where}")
+                    self.assertIn(side.value, (None, True, False), f"L20 {where}")
+
+    def test_walked_at_once(self):
+        walked = [node.iter for node, where in nodes(ast.For, ast.comprehension)]
+        for node, where in nodes(ast.Call):
+            if getattr(node.func, "id", "") in WALKERS or getattr(node.func, "attr", "") == "join":
+                walked.extend(node.args)
+        places = {(part.lineno, part.col_offset, ast.dump(part)) for part in walked}
+        for node, where in nodes(ast.Call):
+            name = getattr(node.func, "id", "") or getattr(node.func, "attr", "")
+            if name in WALKED:
+                self.assertIn((node.lineno, node.col_offset, ast.dump(node)), places, f"L23 {where}")
+
     def test_imports(self):
         for node, where in nodes(ast.ImportFrom):
             self.assertEqual(node.level, 0, f"L2 {where}")
@@ -107,8 +144,9 @@ class Form(unittest.TestCase):
 
     def test_names(self):
         for name, where in bound_names():
-            self.assertRegex(name, r"\A([A-Za-z][A-Za-z0-9_]*|__(init|eq|repr|str|len|all|version)__)\Z", f"L12 {where}")
-            self.assertFalse(hasattr(builtins, name), f"L8, L15 {where}")
+            if name not in TWO_UNDERSCORES:
+                self.assertRegex(name, r"\A[A-Za-z][A-Za-z0-9_]*\Z", f"L12 {where}")
+                self.assertFalse(hasattr(builtins, name), f"L8, L15 {where}")
         for node, where in nodes(ast.Name):
             if hasattr(builtins, node.id):
                 self.assertIn(node.id, OWN_NAMES, f"L8, L27 {where}")

@@ -1,10 +1,14 @@
 """The calls. Each answers one list of whole numbers; a refusal is its number alone."""
 
 from tokenpass.base64url import from_signs, to_signs
+from tokenpass.hs256 import hs256
+from tokenpass.jsontext import NotJson, count_values
 
 WRONG_ARGUMENTS = -2
 NOT_WRITTEN_SO = -3
 LONGER_THAN_MOST = -7
+
+LONGEST_KEY = 64
 
 
 def counted(most, data):
@@ -29,3 +33,18 @@ def tk_unpack(most, t):
     if data is None:
         return [NOT_WRITTEN_SO]
     return counted(most, data)
+
+
+def tk_mac(key, b):
+    """0, then 32 bytes: HS256 of b by key."""
+    if not 1 <= len(key) <= LONGEST_KEY:
+        return [WRONG_ARGUMENTS]
+    return [0] + hs256(key, b)
+
+
+def tk_json(t):
+    """How many values there are in all in the text t."""
+    try:
+        return [count_values(t)]
+    except NotJson:
+        return [NOT_WRITTEN_SO]
