@@ -1,6 +1,8 @@
 """Inputs that several test files use. The expected texts come from RFC 4648 and Python's own base64."""
 
 import base64
+import hashlib
+import hmac
 
 ALPHABET = b"ABCDEFGHIJKLMNOPQRSTUVWXYZabcdefghijklmnopqrstuvwxyz0123456789-_"
 
@@ -51,3 +53,14 @@ def written(data):
 def answer(data):
     """The answer that gives these bytes."""
     return [len(data)] + list(data)
+
+
+def signed(header, claims, key):
+    """The token with this header and these claims as they stand, by Python's own base64 and hmac."""
+    text = bytes(written(header) + [46] + written(claims))
+    return list(text) + [46] + written(hmac.new(bytes(key), text, hashlib.sha256).digest())
+
+
+def row(name, key):
+    """The row of tk_check's keys with this name and this key."""
+    return [len(name)] + list(name) + [len(key)] + list(key)

@@ -25,6 +25,9 @@ METHODS = set(
 
 TWO_UNDERSCORES = ("__init__", "__eq__", "__repr__", "__str__", "__len__", "__all__", "__version__")
 
+# Names of Python's own methods that a value of an object may have all the same.
+FREE_VALUES = set("count index title find get join lower upper split strip copy add".split())
+
 NODES = set(
     "Module Expr ImportFrom alias FunctionDef arguments arg ClassDef Lambda Return Assign AugAssign For While If Raise"
     " Try ExceptHandler Pass Break Continue Call Name Load Store Attribute Subscript Slice Constant List Tuple Dict Set"
@@ -66,6 +69,15 @@ def bound_names():
     for node, where in nodes(ast.Name):
         if isinstance(node.ctx, ast.Store):
             yield node.id, where
+
+
+def bound_here(node):
+    """The names that a row at a file's top binds, but for imports."""
+    if isinstance(node, (ast.FunctionDef, ast.ClassDef)):
+        return [node.name]
+    if isinstance(node, ast.Assign):
+        return [target.id for target in node.targets]
+    return []
 
 
 class Form(unittest.TestCase):
@@ -141,6 +153,50 @@ class Form(unittest.TestCase):
             self.assertEqual(node.level, 0, f"L2 {where}")
             self.assertRegex(node.module, r"\Atokenpass\.[a-z0-9_]+\Z", f"L2, L16 {where}")
             self.assertNotIn("*", [name.name for name in node.names], f"L2 {where}")
+
+    def test_imported_names_are_defined_there(self):
+        defined = {}
+        drawn = {}
+        for name, text in texts():
+            body = ast.parse(text).body
+            module = "tokenpass." + name[:-len(".py")]
+            rows = [node for node in body if isinstance(node, ast.ImportFrom)]
+            defined[module] = {name for node in body for name in bound_here(node)}
+            drawn[module] = {node.module for node in rows}
+            for node in rows:
+                self.assertEqual([part.asname for part in node.names if part.asname], [], f"L2 {name}")
+        for node, where in nodes(ast.ImportFrom):
+            self.assertLessEqual({part.name for part in node.names}, defined[node.module], f"L16 {where}")
+        while drawn:
+            free = [module for module in drawn if not drawn[module]]
+            self.assertTrue(free, f"L16 files that draw from one another among {sorted(drawn)}")
+            drawn = {module: drawn[module] - set(free) for module in drawn if module not in free}
+
+    def test_top_of_a_file(self):
+        for name, text in texts():
+            bound = [part for node in ast.parse(text).body for part in bound_here(node)]
+            self.assertEqual(len(set(bound)), len(bound), f"L15 {name}")
+
+    def test_locals_are_not_called_like_an_import_or_a_class(self):
+        for name, text in texts():
+            tree = ast.parse(text)
+            taken = {part.name for node in tree.body if isinstance(node, ast.ImportFrom) for part in node.names}
+            taken |= {node.name for node in tree.body if isinstance(node, ast.ClassDef)}
+            for node in ast.walk(tree):
+                if isinstance(node, ast.arg):
+                    self.assertNotIn(node.arg, taken, f"L15 {name}, line {node.lineno}")
+                if isinstance(node, ast.Name) and isinstance(node.ctx, ast.Store):
+                    self.assertNotIn(node.id, taken, f"L15 {name}, line {node.lineno}")
+
+    def test_values_of_objects(self):
+        methods = {part.name for node, where in nodes(ast.ClassDef) for part in node.body
+                   if isinstance(part, ast.FunctionDef)}
+        pythons = {name for kind in (str, int, list, dict, set, bytes) for name in dir(kind)}
+        for node, where in nodes(ast.Attribute):
+            if isinstance(node.ctx, ast.Store):
+                self.assertIsInstance(node.value, ast.Name, f"L18 {where}")
+                self.assertNotIn(node.attr, methods, f"L18 {where}")
+                self.assertNotIn(node.attr, pythons - FREE_VALUES, f"L26 {where}")
 
     def test_names(self):
         for name, where in bound_names():

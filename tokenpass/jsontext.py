@@ -9,6 +9,21 @@ NO_BYTE = -1
 BLANKS = (32, 9, 10, 13)
 QUOTE = 34
 BACKSLASH = 92
+
+ARRAY = "array"
+OBJECT = "object"
+STRING = "string"
+NUMBER = "number"
+# A value's kind by its first byte; that of a word is the word itself. All else must be a number, or is no JSON.
+KINDS = {
+    91: ARRAY,
+    123: OBJECT,
+    34: STRING,
+    110: "null",
+    116: "true",
+    102: "false",
+}
+
 # The byte behind a backslash, and the byte that both stand for.
 ESCAPES = {
     34: 34,  # a quote
@@ -42,6 +57,17 @@ def hex_of(byte):
     return -1
 
 
+# A value of a text, and where it stands there, the blanks around it left out.
+class Value:
+    def __init__(self, kind, inner, begin, end):
+        self.kind = kind
+        # Of a string its bytes, escapes resolved; of a number its bytes; of an array its values in a list; of an
+        # object its values in a dict, by their names as tuples of bytes, escapes resolved; of a word None.
+        self.inner = inner
+        self.begin = begin
+        self.end = end
+
+
 # Goes through a text from its first byte to its last. Calls within one another are few, since what is nested
 # deeper than MOST_DEEP is refused ahead of the next call.
 class Reader:
@@ -73,74 +99,81 @@ class Reader:
 
     def read_text(self):
         """The whole text: one value."""
-        self.read_value(0)
+        value = self.read_value(0)
         if self.place < len(self.text):
             raise NotJson()
+        return value
 
     def read_value(self, around):
-        """A value with the blanks around it, within so many arrays and objects."""
+        """A value, read with the blanks around it, within so many arrays and objects."""
         self.skip_blanks()
         self.count = self.count + 1
-        byte = self.next_byte()
-        if byte == ord("[") or byte == ord("{"):
-            self.read_nest(byte, around)
-        elif byte == QUOTE:
-            self.read_string()
-        elif byte == ord("n"):
-            self.read_word("null")
-        elif byte == ord("t"):
-            self.read_word("true")
-        elif byte == ord("f"):
-            self.read_word("false")
-        else:
-            self.read_number()
+        begin = self.place
+        kind = KINDS.get(self.next_byte(), NUMBER)
+        inner = self.read_inner(kind, around)
+        end = self.place
         self.skip_blanks()
+        return Value(kind, inner, begin, end)
 
-    def read_nest(self, byte, around):
+    def read_inner(self, kind, around):
+        """What a value of this kind holds."""
+        if kind == ARRAY or kind == OBJECT:
+            return self.read_nest(kind, around)
+        if kind == STRING:
+            return self.read_string()
+        if kind == NUMBER:
+            return self.read_number()
+        self.read_word(kind)
+        return None
+
+    def read_nest(self, kind, around):
         if around == MOST_DEEP:
             raise NotJson()
-        if byte == ord("["):
-            self.read_array(around + 1)
-        else:
-            self.read_object(around + 1)
+        if kind == ARRAY:
+            return self.read_array(around + 1)
+        return self.read_object(around + 1)
 
     def read_array(self, around):
+        values = []
         self.take(ord("["))
         self.skip_blanks()
         if self.passes(ord("]")):
-            return
-        self.read_value(around)
+            return values
+        values.append(self.read_value(around))
         while self.passes(ord(",")):
-            self.read_value(around)
+            values.append(self.read_value(around))
         self.take(ord("]"))
+        return values
 
     def read_object(self, around):
-        names = {}
+        members = {}
         self.take(ord("{"))
         self.skip_blanks()
         if self.passes(ord("}")):
-            return
-        self.read_member(around, names)
+            return members
+        self.read_member(around, members)
         while self.passes(ord(",")):
-            self.read_member(around, names)
+            self.read_member(around, members)
         self.take(ord("}"))
+        return members
 
-    def read_member(self, around, names):
-        """A name and its value; the name joins those that the object has already."""
+    def read_member(self, around, members):
+        """A name and its value, which join those that the object has already."""
         self.skip_blanks()
         name = tuple(self.read_string())
-        if name in names:
+        if name in members:
             raise NotJson()
-        names[name] = True
         self.skip_blanks()
         self.take(ord(":"))
-        self.read_value(around)
+        members[name] = self.read_value(around)
 
     def read_word(self, word):
         for letter in word:
             self.take(ord(letter))
 
     def read_number(self):
+        """The number's bytes as they stand."""
+        begin = self.place
         self.passes(ord("-"))
         # Digits behind a 0 at the front are left unread, and nothing that may follow a value begins so.
         if not self.passes(ord("0")):
@@ -151,6 +184,7 @@ class Reader:
             if not self.passes(ord("+")):
                 self.passes(ord("-"))
             self.read_digits()
+        return self.text[begin:self.place]
 
     def read_digits(self):
         """One digit or more."""
@@ -221,3 +255,14 @@ def count_values(text):
     reader = Reader(text)
     reader.read_text()
     return reader.count
+
+
+def read_members(text):
+    """The values of the object that the text is, by their names; None if it is no JSON or no object."""
+    try:
+        value = Reader(text).read_text()
+    except NotJson:
+        return None
+    if value.kind != OBJECT:
+        return None
+    return value.inner

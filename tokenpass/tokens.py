@@ -1,14 +1,21 @@
 """The calls. Each answers one list of whole numbers; a refusal is its number alone."""
 
 from tokenpass.base64url import from_signs, to_signs
-from tokenpass.hs256 import hs256
+from tokenpass.claims import right_claims
+from tokenpass.faults import first_fault
+from tokenpass.header import can_be_kid, header_with
+from tokenpass.hs256 import LONGEST_KEY, hs256
 from tokenpass.jsontext import NotJson, count_values
+from tokenpass.keyrows import read_rows
+from tokenpass.tokentext import write_token
 
 WRONG_ARGUMENTS = -2
 NOT_WRITTEN_SO = -3
 LONGER_THAN_MOST = -7
 
-LONGEST_KEY = 64
+# In the place of how many bytes iss or aud is to have: nothing is wanted, which is unlike no bytes.
+NOT_WANTED = -1
+LONGEST_WANTED = 1024
 
 
 def counted(most, data):
@@ -16,6 +23,21 @@ def counted(most, data):
     if len(data) > most:
         return [LONGER_THAN_MOST]
     return [len(data)] + data
+
+
+def is_key(key):
+    return 1 <= len(key) <= LONGEST_KEY
+
+
+def is_wanted_length(length):
+    return NOT_WANTED <= length <= LONGEST_WANTED
+
+
+def wanted(length, data):
+    """data, or None if nothing is wanted."""
+    if length == NOT_WANTED:
+        return None
+    return data
 
 
 def tk_pack(most, b):
@@ -37,7 +59,7 @@ def tk_unpack(most, t):
 
 def tk_mac(key, b):
     """0, then 32 bytes: HS256 of b by key."""
-    if not 1 <= len(key) <= LONGEST_KEY:
+    if not is_key(key):
         return [WRONG_ARGUMENTS]
     return [0] + hs256(key, b)
 
@@ -48,3 +70,22 @@ def tk_json(t):
         return [count_values(t)]
     except NotJson:
         return [NOT_WRITTEN_SO]
+
+
+def tk_make(most, claims, key, kid):
+    """How many bytes, then these: the token with these claims, signed by key; kid is the key's name if it has bytes."""
+    if most < 0 or not is_key(key):
+        return [WRONG_ARGUMENTS]
+    if right_claims(claims) is None or not can_be_kid(kid):
+        return [NOT_WRITTEN_SO]
+    return counted(most, write_token(header_with(kid), claims, key))
+
+
+def tk_check(now, slack, i, a, token, keys, iss, aud):
+    """0 if nothing is wrong with the token, else 1 to 9: the first thing that is."""
+    if not is_wanted_length(i) or not is_wanted_length(a):
+        return [WRONG_ARGUMENTS]
+    rows = read_rows(keys)
+    if rows is None:
+        return [NOT_WRITTEN_SO]
+    return [first_fault(token, rows, now, slack, wanted(i, iss), wanted(a, aud))]
