@@ -10,6 +10,9 @@ KEYS = row(b"", KEY)
 NOW = 1000
 SLACK = 10
 
+# What tk_check may answer other than 0, in the order in which it is due.
+FAULTS = (-2, -3, 1, 2, 3, 4, 5, 6, 7, 8, 9)
+
 
 def checked(token, keys=KEYS, now=NOW, slack=SLACK, iss=None, aud=None):
     """tk_check's answer; iss and aud are None where nothing is wanted."""

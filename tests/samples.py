@@ -29,6 +29,23 @@ KNOWN_PAIRS = [
     (b'{"typ":"JWT",\r\n "alg":"HS256"}', b"eyJ0eXAiOiJKV1QiLA0KICJhbGciOiJIUzI1NiJ9"),
 ]
 
+# The token of RFC 7515, appendix A.1, and its key of 64 bytes.
+RFC_TOKEN = (
+    b"eyJ0eXAiOiJKV1QiLA0KICJhbGciOiJIUzI1NiJ9"
+    b".eyJpc3MiOiJqb2UiLA0KICJleHAiOjEzMDA4MTkzODAsDQogImh0dHA6Ly9leGFtcGxlLmNvbS9pc19yb290Ijp0cnVlfQ"
+    b".dBjftJeZ4CVP-mB92K27uhbUJU1p1r_wW1gFWFOEjXk"
+)
+RFC_KEY = base64.urlsafe_b64decode(
+    "AyM1SysPpbyDfgZld3umj1qzKObwVMkoqQ-EstJQLr_T-1qS0gZH75aKtMN3Yj0iPS4hcgUuTwjAzZr1Z9CAow==")
+
+# A widely known token; its key is your-256-bit-secret.
+DOE_CLAIMS = b'{"sub":"1234567890","name":"John Doe","iat":1516239022}'
+DOE_TOKEN = (
+    b"eyJhbGciOiJIUzI1NiIsInR5cCI6IkpXVCJ9"
+    b".eyJzdWIiOiIxMjM0NTY3ODkwIiwibmFtZSI6IkpvaG4gRG9lIiwiaWF0IjoxNTE2MjM5MDIyfQ"
+    b".SflKxwRJSMeKKF2QT4fwpMeJf36POk6yJV_adQssw5c"
+)
+
 
 class Untouched(list):
     """A list that fails as soon as somebody changes it, even if only for a while."""

@@ -7,24 +7,10 @@ import time
 import unittest
 
 import token_oracle
-from check_samples import HEADER, KEY, KEYS, checked, claimed, faulty
+from check_samples import FAULTS, HEADER, KEY, KEYS, checked, claimed, faulty
 from claim_samples import right_claims, wrong_claims
-from samples import Untouched, row, signed, spread, written
+from samples import RFC_KEY, RFC_TOKEN, Untouched, row, signed, spread, written
 from tokenpass.tokens import tk_check, tk_make
-
-# The token of RFC 7515, appendix A.1, and its key.
-RFC_KEY = (
-    b"\x03\x23\x35\x4b\x2b\x0f\xa5\xbc\x83\x7e\x06\x65\x77\x7b\xa6\x8f\x5a\xb3\x28\xe6\xf0\x54\xc9\x28\xa9\x0f\x84\xb2"
-    b"\xd2\x50\x2e\xbf\xd3\xfb\x5a\x92\xd2\x06\x47\xef\x96\x8a\xb4\xc3\x77\x62\x3d\x22\x3d\x2e\x21\x72\x05\x2e\x4f\x08"
-    b"\xc0\xcd\x9a\xf5\x67\xd0\x80\xa3"
-)
-RFC_TOKEN = (
-    b"eyJ0eXAiOiJKV1QiLA0KICJhbGciOiJIUzI1NiJ9"
-    b".eyJpc3MiOiJqb2UiLA0KICJleHAiOjEzMDA4MTkzODAsDQogImh0dHA6Ly9leGFtcGxlLmNvbS9pc19yb290Ijp0cnVlfQ"
-    b".dBjftJeZ4CVP-mB92K27uhbUJU1p1r_wW1gFWFOEjXk"
-)
-
-FAULTS = (-2, -3, 1, 2, 3, 4, 5, 6, 7, 8, 9)
 
 
 class Answers(unittest.TestCase):

@@ -6,7 +6,7 @@ import hmac
 import time
 import unittest
 
-from samples import Untouched, spread
+from samples import RFC_KEY, RFC_TOKEN, Untouched, spread
 from tokenpass.tokens import tk_mac
 
 # RFC 4231, the test cases whose keys have at most 64 bytes: key, text, and HMAC with SHA-256.
@@ -16,14 +16,6 @@ KNOWN = [
     (b"\xaa" * 20, b"\xdd" * 50, "773ea91e36800e46854db8ebd09181a72959098b3ef8c122d9635514ced565fe"),
     (bytes(range(1, 26)), b"\xcd" * 50, "82558a389a443c0ea4cc819899f2083a85f0faa3e578f8077a2e3ff46729665b"),
 ]
-
-# RFC 7515, appendix A.1: a key of 64 bytes, the signing input, and its HS256 in base64url.
-TOKEN_KEY = "AyM1SysPpbyDfgZld3umj1qzKObwVMkoqQ-EstJQLr_T-1qS0gZH75aKtMN3Yj0iPS4hcgUuTwjAzZr1Z9CAow=="
-TOKEN_TEXT = (
-    b"eyJ0eXAiOiJKV1QiLA0KICJhbGciOiJIUzI1NiJ9"
-    b".eyJpc3MiOiJqb2UiLA0KICJleHAiOjEzMDA4MTkzODAsDQogImh0dHA6Ly9leGFtcGxlLmNvbS9pc19yb290Ijp0cnVlfQ"
-)
-TOKEN_MAC = "dBjftJeZ4CVP-mB92K27uhbUJU1p1r_wW1gFWFOEjXk="
 
 # Around the ends of blocks of 64 bytes, where the length and the padding move to a further block.
 EDGES = (0, 1, 54, 55, 56, 57, 62, 63, 64, 65, 66, 118, 119, 120, 121, 127, 128, 129, 183, 184, 191, 192, 193, 1000)
@@ -46,9 +38,9 @@ class Answered(unittest.TestCase):
         self.assertEqual(given[1:17], list(bytes.fromhex("a3b6167473100ee06e0c796c2955552b")))
 
     def test_token_of_the_standard(self):
-        key = list(base64.urlsafe_b64decode(TOKEN_KEY))
-        self.assertEqual(len(key), 64)
-        self.assertEqual(tk_mac(key, list(TOKEN_TEXT)), [0] + list(base64.urlsafe_b64decode(TOKEN_MAC)))
+        self.assertEqual(len(RFC_KEY), 64)
+        signs, point, signature = RFC_TOKEN.rpartition(b".")
+        self.assertEqual(tk_mac(list(RFC_KEY), list(signs)), [0] + list(base64.urlsafe_b64decode(signature + b"=")))
 
     def test_every_length_of_key(self):
         for length in range(1, 65):

@@ -4,7 +4,7 @@ import time
 import unittest
 
 from claim_samples import right_claims, wrong_claims
-from samples import Untouched, answer, signed, spread
+from samples import DOE_CLAIMS, DOE_TOKEN, Untouched, answer, signed, spread
 from tokenpass.tokens import tk_make
 
 PLENTY = 2147483647
@@ -12,12 +12,7 @@ PLAIN_HEADER = b'{"alg":"HS256","typ":"JWT"}'
 
 # Claims, key, kid and token. The first two are widely known; the last two were made with openssl's dgst and base64.
 KNOWN = [
-    (
-        b'{"sub":"1234567890","name":"John Doe","iat":1516239022}', b"your-256-bit-secret", b"",
-        b"eyJhbGciOiJIUzI1NiIsInR5cCI6IkpXVCJ9"
-        b".eyJzdWIiOiIxMjM0NTY3ODkwIiwibmFtZSI6IkpvaG4gRG9lIiwiaWF0IjoxNTE2MjM5MDIyfQ"
-        b".SflKxwRJSMeKKF2QT4fwpMeJf36POk6yJV_adQssw5c",
-    ),
+    (DOE_CLAIMS, b"your-256-bit-secret", b"", DOE_TOKEN),
     (
         b'{"sub":"1234567890","name":"John Doe","admin":true}', b"secret", b"",
         b"eyJhbGciOiJIUzI1NiIsInR5cCI6IkpXVCJ9"

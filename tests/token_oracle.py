@@ -105,3 +105,36 @@ def fault(now, slack, i, a, token, named, iss, aud):
     if a >= 0 and aud not in [part.encode() for part in said]:
         return 9
     return 0
+
+
+def skip(text, place):
+    while text[place] in BLANKS:
+        place += 1
+    return place
+
+
+def spans(text):
+    """Each name of the object that the text is, with its value as it stands."""
+    found = {}
+    place = skip(text, skip(text, 0) + 1)
+    while text[place] != "}":
+        name, place = DECODER.raw_decode(text, place)
+        start = skip(text, skip(text, place) + 1)
+        value, place = DECODER.raw_decode(text, start)
+        found[name.encode()] = text[start:place].encode()
+        place = skip(text, place)
+        if text[place] == ",":
+            place = skip(text, place + 1)
+    return found
+
+
+def claim(most, token, name):
+    if most < 0:
+        return [-2]
+    parts = [unpacked(part) for part in bytes(token).split(b".")]
+    if len(parts) != 3 or None in parts or members(parts[1]) is None:
+        return [-3]
+    value = spans(parts[1].decode()).get(bytes(name))
+    if value is None:
+        return [-5]
+    return [-7] if len(value) > most else [len(value)] + list(value)

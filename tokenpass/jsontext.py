@@ -16,9 +16,9 @@ STRING = "string"
 NUMBER = "number"
 # A value's kind by its first byte; that of a word is the word itself. All else must be a number, or is no JSON.
 KINDS = {
-    91: ARRAY,
-    123: OBJECT,
-    34: STRING,
+    91: "array",
+    123: "object",
+    34: "string",
     110: "null",
     116: "true",
     102: "false",

@@ -5,12 +5,13 @@ from tokenpass.claims import right_claims
 from tokenpass.faults import first_fault
 from tokenpass.header import can_be_kid, header_with
 from tokenpass.hs256 import LONGEST_KEY, hs256
-from tokenpass.jsontext import NotJson, count_values
+from tokenpass.jsontext import NotJson, count_values, read_members
 from tokenpass.keyrows import read_rows
-from tokenpass.tokentext import write_token
+from tokenpass.tokentext import read_token, write_token
 
 WRONG_ARGUMENTS = -2
 NOT_WRITTEN_SO = -3
+THERE_IS_NONE = -5
 LONGER_THAN_MOST = -7
 
 # In the place of how many bytes iss or aud is to have: nothing is wanted, which is unlike no bytes.
@@ -89,3 +90,19 @@ def tk_check(now, slack, i, a, token, keys, iss, aud):
     if rows is None:
         return [NOT_WRITTEN_SO]
     return [first_fault(token, rows, now, slack, wanted(i, iss), wanted(a, aud))]
+
+
+def tk_claim(most, token, name):
+    """How many bytes, then these: the value of the name in the token's claims, as it stands there."""
+    if most < 0:
+        return [WRONG_ARGUMENTS]
+    parts = read_token(token)
+    if parts is None:
+        return [NOT_WRITTEN_SO]
+    members = read_members(parts.claims)
+    if members is None:
+        return [NOT_WRITTEN_SO]
+    value = members.get(tuple(name))
+    if value is None:
+        return [THERE_IS_NONE]
+    return counted(most, parts.claims[value.begin:value.end])
